@@ -8,6 +8,7 @@ import (
 	"jobshell/alias"
 	"jobshell/api"
 	"jobshell/lexer"
+	"jobshell/small"
 	"jobshell/words"
 )
 
@@ -147,19 +148,6 @@ func expand(s string, aliases map[string]string) string {
 	return string(m.text)
 }
 
-// eachString calls f with all strings of at most n of the pieces.
-func eachString(pieces []string, n int, f func(s string)) {
-	f("")
-	if n == 0 {
-		return
-	}
-	eachString(pieces, n-1, func(s string) {
-		for _, p := range pieces {
-			f(s + p)
-		}
-	})
-}
-
 func compare(t *testing.T, s string, l []api.Alias, m map[string]string) {
 	t.Helper()
 	if got, errno := alias.Expand(s, l); got != expand(s, m) || errno != api.OK {
@@ -174,7 +162,7 @@ func TestSmallValues(t *testing.T) {
 		for _, b := range values {
 			m := map[string]string{"a": a, "b": b}
 			l := fromMap(m)
-			eachString([]string{"a", "b", " ", ";", "\n", "if ", "<<", "'", "x"}, 3, func(s string) { compare(t, s, l, m) })
+			small.Each([]string{"a", "b", " ", ";", "\n", "if ", "<<", "'", "x"}, 3, func(s string) { compare(t, s, l, m) })
 			for _, s := range []string{"a b a b", "a a a", "a b' a", "if a if b a", "x a; a b\na", "(a|b)&&b||a", "a <<b\nb\nb\na", "a >b a b", "a \\\nb #a\nb", "a;b;a b"} {
 				compare(t, s, l, m)
 			}
@@ -191,7 +179,7 @@ func TestSmallStrings(t *testing.T) {
 		{"a": "c a\t", "b": "a c", "c": "b b "},
 	} {
 		l := fromMap(m)
-		eachString([]string{"a", "b", "c", " ", ";", "do ", "\n"}, 6, func(s string) { compare(t, s, l, m) })
+		small.Each([]string{"a", "b", "c", " ", ";", "do ", "\n"}, 6, func(s string) { compare(t, s, l, m) })
 	}
 }
 
@@ -204,7 +192,7 @@ func TestSmallHereDocuments(t *testing.T) {
 		{"a": "<<e\n", "e": ""},
 	} {
 		l := fromMap(m)
-		eachString([]string{"a", "e", "\n", "\t", "<<e", "<<-e", "<<'a'", ";", " "}, 5, func(s string) {
+		small.Each([]string{"a", "e", "\n", "\t", "<<e", "<<-e", "<<'a'", ";", " "}, 5, func(s string) {
 			compare(t, s, l, m)
 			compare(t, "x <<e <<-a\n"+s, l, m)
 		})

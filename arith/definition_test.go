@@ -9,6 +9,7 @@ import (
 
 	"jobshell/api"
 	"jobshell/arith"
+	"jobshell/small"
 )
 
 // The tests of this file compare Parse with a parser that follows the grammar by trying all divisions of the tokens.
@@ -218,21 +219,6 @@ func checkParsed(t *testing.T, s string, e api.Expr) {
 	}
 }
 
-// eachString calls f with all strings of at most n of the pieces.
-func eachString(pieces []string, n int, f func(s string)) {
-	level := []string{""}
-	for range n + 1 {
-		var next []string
-		for _, s := range level {
-			f(s)
-			for _, p := range pieces {
-				next = append(next, s+p)
-			}
-		}
-		level = next
-	}
-}
-
 func TestParseTokens(t *testing.T) {
 	long := strings.Repeat("n", api.MaxName+1) + " "
 	for _, c := range []struct {
@@ -246,7 +232,7 @@ func TestParseTokens(t *testing.T) {
 		{4, []string{"a ", "09 ", long, "9223372036854775808 ", "? ", "+ ", "= ", "( ", "$ "}},
 		{3, []string{"1 ", "a ", "| ", "^ ", "& ", "== ", "!= ", "< ", "> ", "<= ", ">= ", "<< ", ">> ", "+ ", "- ", "* ", "/ ", "% ", "! ", "~ ", "( ", ") ", "? ", ": ", "= ", "<<= ", "^= ", "# "}},
 	} {
-		eachString(c.pieces, c.n, func(s string) { compareParse(t, s) })
+		small.Each(c.pieces, c.n, func(s string) { compareParse(t, s) })
 	}
 }
 
@@ -257,7 +243,7 @@ func TestParseBytes(t *testing.T) {
 		{"x", "0", "8", "(", ")", "\n"},
 		{"a", "*", "/", "%", "^", "="},
 	} {
-		eachString(pieces, 5, func(s string) { compareParse(t, s) })
+		small.Each(pieces, 5, func(s string) { compareParse(t, s) })
 	}
 	for b := range 256 {
 		c := string([]byte{byte(b)})

@@ -12,6 +12,7 @@ import (
 	"jobshell/api"
 	"jobshell/arith"
 	"jobshell/calc"
+	"jobshell/small"
 )
 
 func num(n int) api.Expr { return api.Expr{Op: api.XNum, N: n} }
@@ -32,21 +33,6 @@ func binds(s string) []api.Binding {
 		l = append(l, api.Binding{Name: name, Value: value})
 	}
 	return l
-}
-
-// eachString calls f with all strings of at most n of the pieces.
-func eachString(pieces []string, n int, f func(s string)) {
-	level := []string{""}
-	for range n + 1 {
-		var next []string
-		for _, s := range level {
-			f(s)
-			for _, p := range pieces {
-				next = append(next, s+p)
-			}
-		}
-		level = next
-	}
 }
 
 var (
@@ -98,7 +84,7 @@ func TestNumber(t *testing.T) {
 			t.Errorf("Number(%.40q) is %d, %d, want %d, %d", s, n, e, wantN, wantE)
 		}
 	}
-	eachString([]string{"0", "1", "7", "8", "x", "X", "a", "F", "g", "_", "-", "+", " "}, 4, check)
+	small.Each([]string{"0", "1", "7", "8", "x", "X", "a", "F", "g", "_", "-", "+", " "}, 4, check)
 	for _, s := range numerals() {
 		check(s)
 		check("-" + s)
@@ -125,7 +111,7 @@ func TestIntegerValues(t *testing.T) {
 			t.Errorf("the value of %.40q is %d, %.40v, %d, want %d, %d", s, n, out, e, wantN, wantE)
 		}
 	}
-	eachString([]string{"+", "-", "0", "1", "8", "x", "f", "_", " "}, 5, check)
+	small.Each([]string{"+", "-", "0", "1", "8", "x", "f", "_", " "}, 5, check)
 	for _, s := range numerals() {
 		for _, sign := range []string{"", "+", "-", "--", "+-", " "} {
 			check(sign + s)

@@ -20,21 +20,6 @@ func eachByte(f func(s string)) {
 	}
 }
 
-// eachString calls f with all strings of at most n of the pieces.
-func eachString(pieces []string, n int, f func(s string)) {
-	level := []string{""}
-	for range n + 1 {
-		var next []string
-		for _, s := range level {
-			f(s)
-			for _, p := range pieces {
-				next = append(next, s+p)
-			}
-		}
-		level = next
-	}
-}
-
 func TestName(t *testing.T) {
 	long := strings.Repeat("a", api.MaxName)
 	for s, want := range map[string]bool{

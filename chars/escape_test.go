@@ -7,6 +7,7 @@ import (
 
 	"jobshell/api"
 	"jobshell/chars"
+	"jobshell/small"
 )
 
 // escapeOf is how a byte is escaped by definition.
@@ -108,11 +109,11 @@ func TestUnescapeDefinition(t *testing.T) {
 			check(string([]byte{'\\', 'x', byte(b), byte(c)}))
 		}
 	}
-	eachString([]string{`\`, "x", "n", "t", "0", "6", "7", "a", "f", "\n", "\xc3"}, 4, check)
+	small.Each([]string{`\`, "x", "n", "t", "0", "6", "7", "a", "f", "\n", "\xc3"}, 4, check)
 }
 
 func TestEscapeInverse(t *testing.T) {
-	eachString([]string{"a", "x", "0", `\`, "\n", "\t", "\x00", "\x7f", "é", "\xff"}, 4, func(s string) {
+	small.Each([]string{"a", "x", "0", `\`, "\n", "\t", "\x00", "\x7f", "é", "\xff"}, 4, func(s string) {
 		if u, e := chars.Unescape(chars.Escape(s)); u != s || e != api.OK {
 			t.Errorf("Unescape of Escape(%q) is %q, %d", s, u, e)
 		}

@@ -6,6 +6,7 @@ import (
 
 	"jobshell/api"
 	"jobshell/chars"
+	"jobshell/small"
 )
 
 func TestQuote(t *testing.T) {
@@ -140,7 +141,7 @@ func doubleQuoted(s string) (string, string, api.Errno) {
 }
 
 func TestUnquoteDefinition(t *testing.T) {
-	eachString([]string{"a", "'", `"`, `\`, "\n", "$", " ", "\xc3"}, 6, func(s string) {
+	small.Each([]string{"a", "'", `"`, `\`, "\n", "$", " ", "\xc3"}, 6, func(s string) {
 		text, errno := meaning(s)
 		if u, e := chars.Unquote(s); u != text || e != errno {
 			t.Errorf("Unquote(%q) is %q, %d, want %q, %d", s, u, e, text, errno)
@@ -159,7 +160,7 @@ func TestQuoteInverse(t *testing.T) {
 	}
 	eachByte(check)
 	var all []string
-	eachString([]string{"a", "-", "'", `"`, `\`, "\n", "$", "é", "\xff"}, 3, func(s string) {
+	small.Each([]string{"a", "-", "'", `"`, `\`, "\n", "$", "é", "\xff"}, 3, func(s string) {
 		check(s)
 		all = append(all, s)
 	})

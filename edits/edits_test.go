@@ -8,6 +8,7 @@ import (
 
 	"jobshell/api"
 	"jobshell/edits"
+	"jobshell/small"
 )
 
 type list = []api.Edit
@@ -219,7 +220,7 @@ func TestDiff(t *testing.T) {
 
 func TestDiffInverse(t *testing.T) {
 	var all []string
-	eachString([]string{"a", "b", "\n"}, 4, func(s string) { all = append(all, s) })
+	small.Each([]string{"a", "b", "\n"}, 4, func(s string) { all = append(all, s) })
 	for _, a := range all {
 		for _, b := range all {
 			l := edits.Diff(a, b)

@@ -8,22 +8,8 @@ import (
 
 	"jobshell/api"
 	"jobshell/edits"
+	"jobshell/small"
 )
-
-// eachString calls f with all strings of at most n of the pieces.
-func eachString(pieces []string, n int, f func(s string)) {
-	level := []string{""}
-	for range n + 1 {
-		var next []string
-		for _, s := range level {
-			f(s)
-			for _, p := range pieces {
-				next = append(next, s+p)
-			}
-		}
-		level = next
-	}
-}
 
 func TestPlace(t *testing.T) {
 	for _, c := range []struct {
@@ -79,7 +65,7 @@ func TestLines(t *testing.T) {
 }
 
 func TestPositions(t *testing.T) {
-	eachString([]string{"a", "\n", "é"}, 6, func(s string) {
+	small.Each([]string{"a", "\n", "é"}, 6, func(s string) {
 		lines := edits.Lines(s)
 		if joined := strings.Join(lines, "\n"); joined != s || len(lines) != strings.Count(s, "\n")+1 {
 			t.Errorf("Lines(%q) are %q", s, lines)

@@ -9,21 +9,9 @@ import (
 
 	"jobshell/api"
 	"jobshell/heredoc"
+	"jobshell/small"
 	"jobshell/words"
 )
-
-// eachString calls f with all strings of at most n of the pieces.
-func eachString(pieces []string, n int, f func(s string)) {
-	f("")
-	if n == 0 {
-		return
-	}
-	eachString(pieces, n-1, func(s string) {
-		for _, p := range pieces {
-			f(s + p)
-		}
-	})
-}
 
 var documentForms = map[api.Delim]*regexp.Regexp{}
 
@@ -78,12 +66,12 @@ func TestReadSmall(t *testing.T) {
 			lists = append(lists, []api.Delim{a, b})
 		}
 	}
-	eachString([]string{"E", "\t", "\n", "a"}, 6, func(s string) {
+	small.Each([]string{"E", "\t", "\n", "a"}, 6, func(s string) {
 		for _, l := range lists {
 			checkRead(t, s, 0, l)
 		}
 	})
-	eachString([]string{"E", "\t", "\n"}, 5, func(s string) {
+	small.Each([]string{"E", "\t", "\n"}, 5, func(s string) {
 		for at := -1; at <= len(s)+1; at++ {
 			checkRead(t, s, at, nil)
 			for _, l := range lists {
@@ -149,7 +137,7 @@ func TestArgumentsStay(t *testing.T) {
 }
 
 func TestStrip(t *testing.T) {
-	eachString([]string{"\t", "\n", "a", " "}, 6, func(s string) {
+	small.Each([]string{"\t", "\n", "a", " "}, 6, func(s string) {
 		got, want := heredoc.Strip(s), leadingTabs.ReplaceAllString(s, "")
 		if got != want {
 			t.Fatalf("Strip(%q) is %q, want %q", s, got, want)
@@ -169,7 +157,7 @@ func TestStrip(t *testing.T) {
 
 // TestStripOfContents checks that tabs are removed from the same lines that are read without Strip.
 func TestStripOfContents(t *testing.T) {
-	eachString([]string{"\t", "\n", "a", "\tb\n"}, 5, func(s string) {
+	small.Each([]string{"\t", "\n", "a", "\tb\n"}, 5, func(s string) {
 		if !strings.HasSuffix(s, "\n") {
 			return
 		}
@@ -224,7 +212,7 @@ func delimiter(s string) string {
 
 func TestDelimiter(t *testing.T) {
 	pieces := []string{"EOF", "EOF1", "EOF2", "1", "\n", "\nEOF", " ", "\t"}
-	eachString(pieces, 5, func(s string) {
+	small.Each(pieces, 5, func(s string) {
 		if got, want := heredoc.Delimiter(s), delimiter(s); got != want {
 			t.Fatalf("Delimiter(%q) is %q, want %q", s, got, want)
 		}
@@ -251,7 +239,7 @@ func TestDelimiterLarge(t *testing.T) {
 }
 
 func TestRoundTrip(t *testing.T) {
-	eachString([]string{"EOF", "EOF1", "\n", "\t", "1"}, 5, func(s string) {
+	small.Each([]string{"EOF", "EOF1", "\n", "\t", "1"}, 5, func(s string) {
 		if s != "" && !strings.HasSuffix(s, "\n") {
 			return
 		}

@@ -6,6 +6,7 @@ import (
 
 	"jobshell/api"
 	"jobshell/lexer"
+	"jobshell/small"
 )
 
 // The tests of this file compare Close and Next with an automaton that has a stack of the open constructs and reads one byte after the other.
@@ -164,24 +165,6 @@ func wordEnd(s string, at int) (int, api.Errno) {
 	return a.run(0, " \t\n&|;()<>")
 }
 
-// eachString calls f with all strings of at most n of the bytes of an alphabet.
-func eachString(alphabet string, n int, f func(s string)) {
-	text := make([]byte, 0, n)
-	var visit func()
-	visit = func() {
-		f(string(text))
-		if len(text) == n {
-			return
-		}
-		for _, b := range []byte(alphabet) {
-			text = append(text, b)
-			visit()
-			text = text[:len(text)-1]
-		}
-	}
-	visit()
-}
-
 func checkClose(t *testing.T, s string, at int) {
 	t.Helper()
 	end, errno := lexer.Close(s, at)
@@ -212,11 +195,11 @@ func checkWord(t *testing.T, s string) {
 const shellBytes = "$(){}'\"`\\\n# a1;-<"
 
 func TestSmall(t *testing.T) {
-	eachString(shellBytes, 5, func(s string) {
+	small.Each(strings.Split(shellBytes, ""), 5, func(s string) {
 		checkClose(t, s, 0)
 		checkWord(t, s)
 	})
-	eachString(shellBytes, 3, func(s string) {
+	small.Each(strings.Split(shellBytes, ""), 3, func(s string) {
 		for at := -2; at <= len(s)+2; at++ {
 			checkClose(t, s, at)
 		}
@@ -227,7 +210,7 @@ func TestSmall(t *testing.T) {
 func TestNested(t *testing.T) {
 	inner := []string{"\"", "`", "$(", "$((", "$((1+(", "${a-", "$(# \n", "'", "\\", "$(a", "$((2)"}
 	check := func(prefix string, size int) {
-		eachString("$(){}'\"`\\\n# a", size, func(s string) {
+		small.Each(strings.Split("$(){}'\"`\\\n# a", ""), size, func(s string) {
 			checkClose(t, prefix+s, 0)
 			checkClose(t, prefix+s+"\"})`))\"})))'\"\n)", 0)
 			checkWord(t, prefix+s+"}\"))`)\n})'\n)")

@@ -8,12 +8,13 @@ import (
 
 	"jobshell/api"
 	"jobshell/lexer"
+	"jobshell/small"
 )
 
 var operators = []string{"&&", "||", ";", ";;", "&", "|", "(", ")", "<", ">", "<<", "<<-", ">>", "<&", ">&", "<>", ">|", "\n"}
 
 func TestOperator(t *testing.T) {
-	eachString("&|;()<>-\n a\\", 4, func(s string) {
+	small.Each(strings.Split("&|;()<>-\n a\\", ""), 4, func(s string) {
 		if want := slices.Contains(operators, s); lexer.Operator(s) != want {
 			t.Errorf("Operator(%q) is %v", s, !want)
 		}
@@ -45,7 +46,7 @@ func skipOf(s string, at int) int {
 }
 
 func TestSkip(t *testing.T) {
-	eachString(" \t#\\\na;", 5, func(s string) {
+	small.Each(strings.Split(" \t#\\\na;", ""), 5, func(s string) {
 		for at := -1; at <= len(s)+1; at++ {
 			if n, want := lexer.Skip(s, at), skipOf(s, at); n != want {
 				t.Fatalf("Skip(%q, %d) is %d, want %d", s, at, n, want)
@@ -111,13 +112,13 @@ func checkNext(t *testing.T, s string, at int) {
 
 func TestNext(t *testing.T) {
 	for _, alphabet := range []string{"&|;()<>-\n \\1", "12<>a \\\n&#'", "$(){}\"#\n a"} {
-		eachString(alphabet, 4, func(s string) {
+		small.Each(strings.Split(alphabet, ""), 4, func(s string) {
 			for at := -1; at <= len(s)+1; at++ {
 				checkNext(t, s, at)
 			}
 		})
 	}
-	eachString("&|;()<>-\n", 5, func(s string) { checkNext(t, s, 0) })
+	small.Each(strings.Split("&|;()<>-\n", ""), 5, func(s string) { checkNext(t, s, 0) })
 	for _, at := range []int{-1 << 62, 1 << 62} {
 		checkNext(t, "a b", at)
 	}
@@ -157,7 +158,7 @@ func checkAll(t *testing.T, s string) {
 
 func TestAll(t *testing.T) {
 	for _, alphabet := range []string{"&|;<>-\n 1", "12<>a \\\n#'", "$(){}\"#\n a;"} {
-		eachString(alphabet, 5, func(s string) { checkAll(t, s) })
+		small.Each(strings.Split(alphabet, ""), 5, func(s string) { checkAll(t, s) })
 	}
 	for _, s := range []string{"a>b 2>&1 #c", "a'b", "if a; then 'b c' \"$(d \"e\")\" ${f:-g h} `i`; fi # j", "cat <<-E 10<>f >|g 2>h\\\n3>4", "a&&b||c;;d&e|f(g)", "x=$((1 + (2)))<y", "a b 'c", "$((1) 2)) 'a", "a \"${x-\"}\" `", "12a>1 1'2'>3 $1>4 1\\\n>5"} {
 		checkAll(t, s)
@@ -187,7 +188,7 @@ func TestTokenLimits(t *testing.T) {
 // TestLines checks P7.7.
 func TestLines(t *testing.T) {
 	var sources []string
-	eachString("a1 <#\\\n'$(", 3, func(s string) {
+	small.Each(strings.Split("a1 <#\\\n'$(", ""), 3, func(s string) {
 		if _, _, errno := lexer.All(s); errno == api.OK {
 			sources = append(sources, s)
 		}

@@ -7,23 +7,11 @@ import (
 
 	"jobshell/api"
 	"jobshell/lines"
+	"jobshell/small"
 )
 
-// eachString calls f with all strings of at most n bytes of an alphabet.
-func eachString(alphabet string, n int, f func(s string)) {
-	f("")
-	if n == 0 {
-		return
-	}
-	eachString(alphabet, n-1, func(s string) {
-		for _, b := range []byte(alphabet) {
-			f(s + string([]byte{b}))
-		}
-	})
-}
-
 func TestFrom(t *testing.T) {
-	eachString("a\n\t", 5, func(s string) {
+	small.Each(strings.Split("a\n\t", ""), 5, func(s string) {
 		for at := range len(s) + 1 {
 			want := strings.SplitAfter(s[at:], "\n")
 			if want[len(want)-1] == "" {

@@ -8,6 +8,7 @@ import (
 
 	"jobshell/api"
 	"jobshell/pattern"
+	"jobshell/small"
 )
 
 // In the tests of this file, characters are written as runes: an active character is itself, a quoted one is greater by quoted.
@@ -111,14 +112,14 @@ func TestCompileDefinition(t *testing.T) {
 			t.Errorf("Compile(%v) is %v, want %v", runsOf(s), p, want)
 		}
 	}
-	eachString(pieces, 3, check)
-	eachString(pieces, 4, func(s string) {
+	small.Each(pieces, 3, check)
+	small.Each(pieces, 4, func(s string) {
 		// Sets of many members take the definition long: it suffices that they end.
 		if strings.HasSuffix(s, "]") {
 			check("[" + s)
 		}
 	})
-	eachString(pieces, 2, func(s string) {
+	small.Each(pieces, 2, func(s string) {
 		for _, begin := range []string{"[!", "[^]", "[]-", "[a[:space:]", "[[:punct:]-"} {
 			check(begin + s + "]")
 			check(begin + s + "]" + s)
@@ -128,7 +129,7 @@ func TestCompileDefinition(t *testing.T) {
 
 // TestQuotedText checks that quoted text matches itself only, also before other characters.
 func TestQuotedText(t *testing.T) {
-	eachString([]string{"[", "]", "*", "?", "a", "!", "-"}, 3, func(text string) {
+	small.Each([]string{"[", "]", "*", "?", "a", "!", "-"}, 3, func(text string) {
 		before := []api.Run{{Text: text, Class: api.CQuoted}}
 		p := pattern.Compile(before)
 		if s, ok := pattern.Literal(p); s != text || !ok || !pattern.Match(p, text) || pattern.Match(p, text+"a") || pattern.Match(p, "a"+text) {

@@ -7,6 +7,7 @@ import (
 
 	"jobshell/api"
 	"jobshell/pattern"
+	"jobshell/small"
 )
 
 var (
@@ -54,21 +55,6 @@ func samePattern(p, q []api.PatItem) bool {
 
 // literal returns one run of class CLit.
 func literal(s string) []api.Run { return []api.Run{{Text: s, Class: api.CLit}} }
-
-// eachString calls f with all strings of at most n of the pieces.
-func eachString(pieces []string, n int, f func(s string)) {
-	level := []string{""}
-	for range n + 1 {
-		var next []string
-		for _, s := range level {
-			f(s)
-			for _, p := range pieces {
-				next = append(next, s+p)
-			}
-		}
-		level = next
-	}
-}
 
 // eachPattern calls f with all patterns of at most n of the items.
 func eachPattern(choice []api.PatItem, n int, f func(p []api.PatItem)) {
@@ -150,11 +136,11 @@ func checkMatches(t *testing.T, p []api.PatItem, s string) {
 
 func TestMatchDefinition(t *testing.T) {
 	eachPattern(someItems(), 3, func(p []api.PatItem) {
-		eachString([]string{"a", "b", "c"}, 4, func(s string) { checkMatches(t, p, s) })
+		small.Each([]string{"a", "b", "c"}, 4, func(s string) { checkMatches(t, p, s) })
 	})
 	stars := items(star, bytesOf("ab"))
 	eachPattern(stars, 6, func(p []api.PatItem) {
-		eachString([]string{"a", "b"}, 5, func(s string) { checkMatches(t, p, s) })
+		small.Each([]string{"a", "b"}, 5, func(s string) { checkMatches(t, p, s) })
 	})
 }
 
@@ -270,7 +256,7 @@ func TestConsequences(t *testing.T) {
 		if q := pattern.Compile(pattern.Runs(p)); !samePattern(p, q) {
 			t.Errorf("Compile(Runs(%v)) is %v", p, q)
 		}
-		eachString([]string{"a", "b"}, 3, func(s string) {
+		small.Each([]string{"a", "b"}, 3, func(s string) {
 			short, is := pattern.Prefix(p, s, false)
 			long, ok := pattern.Prefix(p, s, true)
 			if is != ok || short > long || ok && !(pattern.Match(p, s[:short]) && pattern.Match(p, s[:long])) {

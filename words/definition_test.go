@@ -7,6 +7,7 @@ import (
 
 	"jobshell/api"
 	"jobshell/lexer"
+	"jobshell/small"
 	"jobshell/words"
 )
 
@@ -383,24 +384,11 @@ func checkToken(t *testing.T, s string, at int, errno api.Errno) {
 	}
 }
 
-// eachString calls f with all strings of at most n of the pieces.
-func eachString(pieces []string, n int, f func(s string)) {
-	f("")
-	if n == 0 {
-		return
-	}
-	eachString(pieces, n-1, func(s string) {
-		for _, p := range pieces {
-			f(p + s)
-		}
-	})
-}
-
 func bytesOf(s string) []string { return strings.Split(s, "") }
 
 func TestSmall(t *testing.T) {
 	for _, alphabet := range []string{"$(){}'\"`\\\na1~", "${}#-:%x\\\n1", "$\\\n`a~/}\"'"} {
-		eachString(bytesOf(alphabet), 4, func(s string) { checkParse(t, s) })
+		small.Each(bytesOf(alphabet), 4, func(s string) { checkParse(t, s) })
 	}
 }
 
@@ -409,7 +397,7 @@ func TestNested(t *testing.T) {
 	outer := []string{"", "\"", "$((", "$((1+(", "${x-", "${#:=", "$(", "`", "a"}
 	for _, a := range outer {
 		for _, b := range outer {
-			eachString(bytesOf("$(){}'\"`\\\n# a~/"), 2, func(s string) {
+			small.Each(bytesOf("$(){}'\"`\\\n# a~/"), 2, func(s string) {
 				checkParse(t, a+b+s)
 				for _, end := range []string{"}", "\"", "))", ")", "`", "}}", "\"}", "}\"", "))}", "}))", "))\"", "\"))", "))))", "`}", "`\"", ")\"", ")}"} {
 					checkParse(t, a+b+s+end)
@@ -422,13 +410,13 @@ func TestNested(t *testing.T) {
 // TestBraces checks all short beginnings of braced parameters.
 func TestBraces(t *testing.T) {
 	pieces := []string{"#", "-", "=", "?", "+", ":", "%", "}", "x", "1", "0", "$", "@", "*", "!", "\\\n", "_", "{", "'", "\"", "~", " "}
-	eachString(pieces, 3, func(s string) {
+	small.Each(pieces, 3, func(s string) {
 		checkParse(t, "${"+s)
 		checkParse(t, "${"+s+"}")
 		checkParse(t, "\"${"+s+"}\"")
 		checkParse(t, "$((${"+s+"}))")
 	})
-	eachString([]string{"#", "-", "?", ":", "%", "}", "x", "1"}, 5, func(s string) { checkParse(t, "${"+s+"}") })
+	small.Each([]string{"#", "-", "?", ":", "%", "}", "x", "1"}, 5, func(s string) { checkParse(t, "${"+s+"}") })
 	for b := range 256 {
 		c := string([]byte{byte(b)})
 		for _, s := range []string{"$" + c, "${" + c, "${" + c + "}", "${x" + c + "}", "${x:" + c + "}", "${1" + c + "}", "${#" + c + "}", "${#x" + c + "}", "$x" + c, "\\" + c, "\"\\" + c + "\"", "$((\\" + c + "))", "\"${x-\\" + c + "}\"", "$((${x-\\" + c + "}))", "${x-" + c + "}", "'" + c + "'", "`\\" + c + "`", c, "~" + c} {
@@ -438,7 +426,7 @@ func TestBraces(t *testing.T) {
 }
 
 func TestBackquoted(t *testing.T) {
-	eachString(bytesOf("\\`$(#)\n \"a'"), 4, func(s string) {
+	small.Each(bytesOf("\\`$(#)\n \"a'"), 4, func(s string) {
 		checkParse(t, "`"+s+"`")
 		checkParse(t, "\"`"+s+"`\"")
 	})

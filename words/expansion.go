@@ -6,16 +6,13 @@ import (
 	"jobshell/api"
 	"jobshell/chars"
 	"jobshell/class"
-	"jobshell/lexer"
+	"jobshell/source"
 )
-
-// operators are the operators of parameters that have an operand, by their numbers.
-var operators = [10]string{"", "-", "=", "?", "+", "", "%", "%%", "#", "##"}
 
 // double parses a double-quoted string.
 func (p *parser) double(where place) api.Part {
 	open := p.at
-	inner := nest(open, where, inDouble, false)
+	inner := nest(open, where, source.Double, false)
 	p.at++
 	l := p.parts(inner)
 	p.expect("\"", open)
@@ -40,16 +37,16 @@ func (p *parser) stop(text string, open int) {
 // backquoted parses a backquoted string.
 func (p *parser) backquoted() api.Part {
 	open := p.at
-	source := p.construct()
-	text := unescape(source[1 : len(source)-1])
+	quoted := p.construct()
+	text := unescape(quoted[1 : len(quoted)-1])
 	if strings.HasPrefix(text, "(") {
 		// Without the blank it would be an arithmetic expansion.
 		text = " " + text
 	}
-	if !isCommand(text) {
+	if !source.Command(text) {
 		// The end of the line ends a comment at the end of the text.
 		text += "\n"
-		if !isCommand(text) {
+		if !source.Command(text) {
 			fail(open, api.ErrSyntax)
 		}
 	}
@@ -68,26 +65,19 @@ func unescape(s string) string {
 	return text.String()
 }
 
-// isCommand reports whether text is the source in a command substitution.
-func isCommand(text string) bool {
-	source := "$(" + text + ")"
-	end, errno := lexer.Close(source, 0)
-	return errno == api.OK && end == len(source)
-}
-
 // dollar parses an expansion, or a $ that begins none.
 func (p *parser) dollar(where place, l *list) {
 	switch {
 	case p.follows("$(("):
 		l.add(p.arith(where))
 	case p.follows("$("):
-		source := p.construct()
-		l.add(api.Part{Kind: api.PCommand, Text: source[2 : len(source)-1]})
+		text := p.construct()
+		l.add(api.Part{Kind: api.PCommand, Text: text[2 : len(text)-1]})
 	case p.follows("${"):
 		l.add(p.braced(where))
 	case class.Parameter(p.s[p.at+1:]) > 0:
 		l.add(p.parameter())
-	case where.in == inWord && (p.follows("$`") || p.follows("$\\\n")):
+	case where.In == source.Word && (p.follows("$`") || p.follows("$\\\n")):
 		fail(p.at, api.ErrSyntax)
 	default:
 		p.literal(l)
@@ -97,7 +87,7 @@ func (p *parser) dollar(where place, l *list) {
 // arith parses an arithmetic expansion.
 func (p *parser) arith(where place) api.Part {
 	open := p.at
-	inner := nest(open, where, inArith, false)
+	inner := nest(open, where, source.Arith, false)
 	p.at += len("$((")
 	l := p.parts(inner)
 	p.expect("))", open)
@@ -185,7 +175,7 @@ func (p *parser) operation(part *api.Part, open int, where place) {
 		return
 	}
 	part.Op = op
-	inner := nest(from, where, where.in, true)
+	inner := nest(from, where, where.In, true)
 	p.at += size
 	if p.follows("\\\n") {
 		fail(p.at, api.ErrSyntax)
@@ -195,8 +185,8 @@ func (p *parser) operation(part *api.Part, open int, where place) {
 
 // operatorAt returns the longest operator that s begins with, and its size.
 func operatorAt(s string) (op, size int) {
-	for i, text := range operators {
-		if len(text) > size && strings.HasPrefix(s, text) {
+	for i := range api.OpLongPrefix + 1 {
+		if text := source.Operator(i); len(text) > size && strings.HasPrefix(s, text) {
 			op, size = i, len(text)
 		}
 	}

@@ -6,21 +6,13 @@ import (
 	"jobshell/api"
 	"jobshell/class"
 	"jobshell/lexer"
+	"jobshell/source"
 )
 
-// What surrounds parts, apart from braced parameters.
-const (
-	inWord   = iota // nothing
-	inDouble        // a double-quoted string
-	inArith         // an arithmetic expansion
-	inHere          // a here-document
-)
-
-// place says where parts are.
+// place says where parts are, and at which level of nesting.
 type place struct {
-	in      int
-	operand bool // directly in the operand of a braced parameter
-	level   int  // of nesting
+	source.Place
+	level int
 }
 
 // failure is an error and its offset.
@@ -48,7 +40,7 @@ func parse(s string, in int) (l []api.Part, at int, errno api.Errno) {
 		}
 	}()
 	p := parser{s: s}
-	return p.parts(place{in: in, level: 1}), 0, api.OK
+	return p.parts(place{source.Place{In: in}, 1}), 0, api.OK
 }
 
 // follows reports whether text is next.
@@ -79,12 +71,12 @@ func nest(at int, where place, in int, operand bool) place {
 	if where.level == api.MaxDepth {
 		fail(at, api.ErrDepth)
 	}
-	return place{in, operand, where.level + 1}
+	return place{source.Place{In: in, Operand: operand}, where.level + 1}
 }
 
 // parts parses the parts at a place, up to what ends them or the end of s.
 func (p *parser) parts(where place) []api.Part {
-	if where.in == inWord {
+	if where.In == source.Word {
 		return p.unquoted(where)
 	}
 	return p.quoted(where)
@@ -93,11 +85,11 @@ func (p *parser) parts(where place) []api.Part {
 // unquoted parses the parts of a word, or of an operand that is not within quotes.
 func (p *parser) unquoted(where place) []api.Part {
 	var l list
-	for p.at < len(p.s) && !(where.operand && p.follows("}")) {
+	for p.at < len(p.s) && !(where.Operand && p.follows("}")) {
 		switch b := p.s[p.at]; {
 		case b == '\'':
-			source := p.construct()
-			l.add(api.Part{Kind: api.PQuoted, Text: source[1 : len(source)-1]})
+			text := p.construct()
+			l.add(api.Part{Kind: api.PQuoted, Text: text[1 : len(text)-1]})
 		case b == '"':
 			l.add(p.double(where))
 		case b == '\\':
@@ -109,7 +101,7 @@ func (p *parser) unquoted(where place) []api.Part {
 		case b == '~' && l.isEmpty() && p.isHome(where):
 			p.at++
 			l.add(api.Part{Kind: api.PTilde})
-		case class.Border(b) && !where.operand:
+		case class.Border(b) && !where.Operand:
 			fail(p.at, api.ErrSyntax)
 		default:
 			p.literal(&l)
@@ -120,8 +112,8 @@ func (p *parser) unquoted(where place) []api.Part {
 
 // escaped parses a backslash that is not within quotes, and the byte after it.
 func (p *parser) escaped(l *list) {
-	if source := p.construct(); source != "\\\n" {
-		l.add(api.Part{Kind: api.PQuoted, Text: source[1:]})
+	if text := p.construct(); text != "\\\n" {
+		l.add(api.Part{Kind: api.PQuoted, Text: text[1:]})
 	}
 }
 
@@ -131,7 +123,7 @@ func (p *parser) isHome(where place) bool {
 	for strings.HasPrefix(rest, "\\\n") {
 		rest = rest[len("\\\n"):]
 	}
-	return rest == "" || rest[0] == '/' || where.operand && rest[0] == '}'
+	return rest == "" || rest[0] == '/' || where.Operand && rest[0] == '}'
 }
 
 // quoted parses the parts within double quotes, an arithmetic expansion, a here-document, or an operand in one of these.
@@ -146,7 +138,7 @@ func (p *parser) quoted(where place) []api.Part {
 			l.add(p.backquoted())
 		case b == '$':
 			p.dollar(where, &l)
-		case b == '"' && where.in == inDouble:
+		case b == '"' && where.In == source.Double:
 			fail(p.at, api.ErrSyntax)
 		default:
 			depth += p.parenthesis(where)
@@ -159,11 +151,11 @@ func (p *parser) quoted(where place) []api.Part {
 // ends reports whether the byte that is next ends the parts at a place within quotes.
 func (p *parser) ends(where place, depth int) bool {
 	switch {
-	case where.operand:
+	case where.Operand:
 		return p.follows("}")
-	case where.in == inDouble:
+	case where.In == source.Double:
 		return p.follows("\"")
-	case where.in == inArith:
+	case where.In == source.Arith:
 		return depth == 0 && p.follows(")")
 	}
 	return false
@@ -172,9 +164,9 @@ func (p *parser) ends(where place, depth int) bool {
 // parenthesis returns how the byte that is next changes the depth of parentheses.
 func (p *parser) parenthesis(where place) int {
 	switch {
-	case where.isArith() && p.follows("("):
+	case where.IsArith() && p.follows("("):
 		return 1
-	case where.isArith() && p.follows(")"):
+	case where.IsArith() && p.follows(")"):
 		return -1
 	}
 	return 0
@@ -190,36 +182,18 @@ func (p *parser) literal(l *list) {
 func (p *parser) backslash(where place, l *list) {
 	next := p.s[p.at+1 : min(p.at+2, len(p.s))]
 	switch {
-	case next == "" && where.in != inHere:
+	case next == "" && where.In != source.Here:
 		fail(p.at, api.ErrIncomplete)
 	case next == "\n":
 		p.at += len("\\\n")
-	case next != "" && strings.Contains(where.special(), next):
+	case next != "" && strings.Contains(where.Special(), next):
 		p.at++
 		p.literal(l)
-	case where.isArith() && (next == "(" || next == ")"):
+	case where.IsArith() && (next == "(" || next == ")"):
 		fail(p.at, api.ErrSyntax)
 	default:
 		p.literal(l)
 	}
-}
-
-// isArith reports whether parentheses at a place are those of an arithmetic expansion.
-func (where place) isArith() bool { return where.in == inArith && !where.operand }
-
-// special returns the bytes that a backslash quotes within quotes.
-func (where place) special() string {
-	if where.in == inWord {
-		return ""
-	}
-	special := "$`\\"
-	if where.in == inDouble {
-		special += "\""
-	}
-	if where.operand {
-		special += "}"
-	}
-	return special
 }
 
 // list is a list of parts that grows, with the literal text that follows them.
